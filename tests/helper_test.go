@@ -11,7 +11,7 @@ import (
 // anyNumbers holds the ends of all ranges that the chapters name, what lies beside them, and the ends of int.
 func anyNumbers() []int {
 	list := []int{math.MinInt, math.MinInt + 1, math.MaxInt - 1, math.MaxInt}
-	for _, end := range []int{0, 19, 40, 127, 255, 4096, 32768, 65535, 65536, 1 << 31, 1 << 32, -256, -65536, -1 << 31} {
+	for _, end := range []int{0, 3, 8, 19, 40, 127, 255, 4096, 32768, 65535, 65536, 1 << 31, 1 << 32, -256, -65536, -1 << 31} {
 		list = append(list, end-1, end, end+1)
 	}
 	return list

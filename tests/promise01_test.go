@@ -1,7 +1,9 @@
 package tests
 
 import (
+	"math"
 	"reflect"
+	"slices"
 	"testing"
 
 	"loop.example/g00644/impl"
@@ -54,9 +56,35 @@ func cursorCalls() []namedCall {
 	return list
 }
 
+// unitNumbers are the ends of what the unit takes, and what lies beside them.
+func unitNumbers() []int {
+	return []int{math.MinInt, -256, -1, 0, 1, 2, 3, 7, 8, 9, 15, 127, 128, 153, 154, 255, 256, 257, 1 << 32, math.MaxInt}
+}
+
+func unitCalls() []namedCall {
+	var list []namedCall
+	for _, a := range unitNumbers() {
+		for _, b := range unitNumbers() {
+			list = append(list,
+				namedCall{"Inc8", func() []any { v, f, code := impl.Inc8(a, b); return []any{v, f, code} }},
+				namedCall{"Dec8", func() []any { v, f, code := impl.Dec8(a, b); return []any{v, f, code} }},
+				namedCall{"Daa8", func() []any { v, f, code := impl.Daa8(a, b); return []any{v, f, code} }})
+			for _, c := range unitNumbers() {
+				list = append(list,
+					namedCall{"Add8", func() []any { v, f, code := impl.Add8(a, b, c); return []any{v, f, code} }},
+					namedCall{"Sub8", func() []any { v, f, code := impl.Sub8(a, b, c); return []any{v, f, code} }},
+					namedCall{"Logic8", func() []any { v, f, code := impl.Logic8(a, b, c); return []any{v, f, code} }},
+					namedCall{"Turn8", func() []any { v, f, code := impl.Turn8(a, b, c); return []any{v, f, code} }},
+					namedCall{"TestBit", func() []any { f, code := impl.TestBit(a, b, c); return []any{f, code} }})
+			}
+		}
+	}
+	return list
+}
+
 // Each call is made twice, the second time in the other order, so that all calls lie between the first two, and other ones ahead of each.
 func TestPromise1(t *testing.T) {
-	calls := append(append(codeCalls(), textCalls()...), cursorCalls()...)
+	calls := slices.Concat(codeCalls(), textCalls(), cursorCalls(), unitCalls())
 	first := make([][]any, len(calls))
 	for i, c := range calls {
 		answers, panicked := caught(c.call)
