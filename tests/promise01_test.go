@@ -82,9 +82,34 @@ func unitCalls() []namedCall {
 	return list
 }
 
+// frameNumbers are the ends of a frame, of its screen and of its window, and what lies beside them.
+func frameNumbers() []int {
+	list := anyNumbers()
+	for _, end := range []int{4, 7, 128, 144, 160, 352, 368, 384, 640} {
+		list = append(list, end-1, end, end+1)
+	}
+	return list
+}
+
+func frameCalls() []namedCall {
+	list := []namedCall{{"WaitTable", func() []any { return []any{impl.WaitTable()} }}}
+	for _, n := range frameNumbers() {
+		list = append(list,
+			namedCall{"LineOf", func() []any { line, into, code := impl.LineOf(n); return []any{line, into, code} }},
+			namedCall{"IsScreen", func() []any { yes, code := impl.IsScreen(n); return []any{yes, code} }},
+			namedCall{"WaitsAt", func() []any { w, code := impl.WaitsAt(n); return []any{w, code} }},
+			namedCall{"FetchAt", func() []any { k, code := impl.FetchAt(n); return []any{k, code} }},
+			namedCall{"InWindow", func() []any { yes, code := impl.InWindow(n); return []any{yes, code} }})
+		for _, m := range frameNumbers() {
+			list = append(list, namedCall{"CellOf", func() []any { k, code := impl.CellOf(n, m); return []any{k, code} }})
+		}
+	}
+	return list
+}
+
 // Each call is made twice, the second time in the other order, so that all calls lie between the first two, and other ones ahead of each.
 func TestPromise1(t *testing.T) {
-	calls := slices.Concat(codeCalls(), textCalls(), cursorCalls(), unitCalls())
+	calls := slices.Concat(codeCalls(), textCalls(), cursorCalls(), unitCalls(), frameCalls())
 	first := make([][]any, len(calls))
 	for i, c := range calls {
 		answers, panicked := caught(c.call)
