@@ -107,9 +107,43 @@ func frameCalls() []namedCall {
 	return list
 }
 
+func memoryCalls(list []impl.Memory) []namedCall {
+	var calls []namedCall
+	for i, m := range list {
+		other := list[(i+1)%len(list)]
+		calls = append(calls,
+			namedCall{"MemoryOK", func() []any { return []any{impl.MemoryOK(m)} }},
+			namedCall{"SameMemory", func() []any {
+				return []any{impl.SameMemory(m, m), impl.SameMemory(m, other), impl.SameMemory(other, m)}
+			}})
+		for _, n := range unitNumbers() {
+			calls = append(calls,
+				namedCall{"WhereIs", func() []any { b, p, code := impl.WhereIs(m, n); return []any{b, p, code} }},
+				namedCall{"PeekAt", func() []any { v, code := impl.PeekAt(m, n); return []any{v, code} }},
+				namedCall{"PokeAt", func() []any { x, code := impl.PokeAt(m, n, 5); return []any{x, code} }},
+				namedCall{"PokeAt", func() []any { x, code := impl.PokeAt(m, 200, n); return []any{x, code} }},
+				namedCall{"PageTo", func() []any { x, code := impl.PageTo(m, n); return []any{x, code} }},
+				namedCall{"IsShared", func() []any { yes, code := impl.IsShared(m, n); return []any{yes, code} }})
+		}
+	}
+	for _, s := range append(anyTexts(), longText(63), longText(64), longText(65)) {
+		calls = append(calls, namedCall{"NewMemory", func() []any { m, code := impl.NewMemory(s); return []any{m, code} }})
+	}
+	return calls
+}
+
+func anyMemories() []impl.Memory {
+	list := settings()
+	for _, w := range wrongMemories() {
+		list = append(list, w.m)
+	}
+	return list
+}
+
 // Each call is made twice, the second time in the other order, so that all calls lie between the first two, and other ones ahead of each.
 func TestPromise1(t *testing.T) {
-	calls := slices.Concat(codeCalls(), textCalls(), cursorCalls(), unitCalls(), frameCalls())
+	memories := anyMemories()
+	calls := slices.Concat(codeCalls(), textCalls(), cursorCalls(), unitCalls(), frameCalls(), memoryCalls(memories))
 	first := make([][]any, len(calls))
 	for i, c := range calls {
 		answers, panicked := caught(c.call)
@@ -123,5 +157,8 @@ func TestPromise1(t *testing.T) {
 		if panicked || !reflect.DeepEqual(answers, first[i]) {
 			t.Fatal(calls[i].name, "answers", short(answers), "after", short(first[i]))
 		}
+	}
+	if !reflect.DeepEqual(memories, anyMemories()) {
+		t.Fatal("a memory that was handed in is changed")
 	}
 }
