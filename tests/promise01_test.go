@@ -132,6 +132,34 @@ func memoryCalls(list []impl.Memory) []namedCall {
 	return calls
 }
 
+func instrCalls() []namedCall {
+	var calls []namedCall
+	var list []impl.Instr
+	for op := -1; op <= 24; op++ {
+		for _, v := range unitNumbers() {
+			list = append(list, impl.Instr{Op: op, Len: 1}, impl.Instr{Op: op, Len: v}, impl.Instr{Op: op, A: v, Len: 1}, impl.Instr{Op: op, B: v, Len: 2}, impl.Instr{Op: op, N: v, Len: 2}, impl.Instr{Op: v, A: op, B: op, Len: 2}, impl.Instr{Op: op, A: v, B: v, N: v, Len: v})
+		}
+	}
+	for _, x := range list {
+		calls = append(calls,
+			namedCall{"InstrOK", func() []any { return []any{impl.InstrOK(x)} }},
+			namedCall{"Encode", func() []any { bytes, code := impl.Encode(x); return []any{bytes, code} }},
+			namedCall{"InstrText", func() []any { s, code := impl.InstrText(x); return []any{s, code} }},
+			namedCall{"TimeOf", func() []any { n, code := impl.TimeOf(x); return []any{n, code} }})
+	}
+	for _, a := range unitNumbers() {
+		for _, b := range unitNumbers() {
+			for n := range 4 {
+				calls = append(calls, namedCall{"Decode", func() []any { x, code := impl.Decode([]int{a, b, a}[:n]); return []any{x, code} }})
+			}
+		}
+	}
+	for _, s := range append(anyTexts(), "nop", "ld 6 6", "ldn 0 256", "inc 01", "db 184", "db 183", "halt 1", "  ret 7  ") {
+		calls = append(calls, namedCall{"ReadInstr", func() []any { x, code := impl.ReadInstr(s); return []any{x, code} }})
+	}
+	return calls
+}
+
 func anyMemories() []impl.Memory {
 	list := settings()
 	for _, w := range wrongMemories() {
@@ -143,7 +171,7 @@ func anyMemories() []impl.Memory {
 // Each call is made twice, the second time in the other order, so that all calls lie between the first two, and other ones ahead of each.
 func TestPromise1(t *testing.T) {
 	memories := anyMemories()
-	calls := slices.Concat(codeCalls(), textCalls(), cursorCalls(), unitCalls(), frameCalls(), memoryCalls(memories))
+	calls := slices.Concat(codeCalls(), textCalls(), cursorCalls(), unitCalls(), frameCalls(), memoryCalls(memories), instrCalls())
 	first := make([][]any, len(calls))
 	for i, c := range calls {
 		answers, panicked := caught(c.call)
