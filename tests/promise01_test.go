@@ -160,6 +160,40 @@ func instrCalls() []namedCall {
 	return calls
 }
 
+// anyCpus are right ones in mixed states, and wrong ones.
+func anyCpus() []impl.Cpu {
+	list := []impl.Cpu{impl.NewCpu(), {}}
+	l := lot(12)
+	for range 30 {
+		list = append(list, l.someCpu())
+	}
+	for _, w := range wrongCpus() {
+		list = append(list, w.c)
+	}
+	return list
+}
+
+func cpuCalls(memories []impl.Memory) []namedCall {
+	calls := []namedCall{{"NewCpu", func() []any { return []any{impl.NewCpu()} }}}
+	for _, n := range anyNumbers() {
+		calls = append(calls, namedCall{"LengthOf", func() []any { v, code := impl.LengthOf(n); return []any{v, code} }})
+	}
+	for i, c := range anyCpus() {
+		calls = append(calls, namedCall{"CpuOK", func() []any { return []any{impl.CpuOK(c)} }})
+		for _, n := range unitNumbers() {
+			calls = append(calls, namedCall{"Holds", func() []any { yes, code := impl.Holds(c, n); return []any{yes, code} }})
+		}
+		for k := range 40 {
+			m, in := memories[(7*i+k)%len(memories)], unitNumbers()[k%len(unitNumbers())]
+			calls = append(calls,
+				namedCall{"StepCpu", func() []any { x, n, list, code := impl.StepCpu(c, m, in); return []any{x, n, list, code} }},
+				namedCall{"Interrupt", func() []any { x, n, list, code := impl.Interrupt(c, m); return []any{x, n, list, code} }},
+				namedCall{"PortWanted", func() []any { port, yes, code := impl.PortWanted(c, m); return []any{port, yes, code} }})
+		}
+	}
+	return calls
+}
+
 func anyMemories() []impl.Memory {
 	list := settings()
 	for _, w := range wrongMemories() {
@@ -171,7 +205,7 @@ func anyMemories() []impl.Memory {
 // Each call is made twice, the second time in the other order, so that all calls lie between the first two, and other ones ahead of each.
 func TestPromise1(t *testing.T) {
 	memories := anyMemories()
-	calls := slices.Concat(codeCalls(), textCalls(), cursorCalls(), unitCalls(), frameCalls(), memoryCalls(memories), instrCalls())
+	calls := slices.Concat(codeCalls(), textCalls(), cursorCalls(), unitCalls(), frameCalls(), memoryCalls(memories), instrCalls(), cpuCalls(memories))
 	first := make([][]any, len(calls))
 	for i, c := range calls {
 		answers, panicked := caught(c.call)
