@@ -194,6 +194,36 @@ func cpuCalls(memories []impl.Memory) []namedCall {
 	return calls
 }
 
+// anyPorts are right ones in mixed states, and wrong ones.
+func anyPorts() []impl.Ports {
+	list := []impl.Ports{impl.NewPorts(), {}}
+	l := lot(13)
+	for range 30 {
+		list = append(list, l.somePorts())
+	}
+	return append(list, portsBeyond()...)
+}
+
+func portCalls(list []impl.Ports) []namedCall {
+	calls := []namedCall{{"NewPorts", func() []any { return []any{impl.NewPorts()} }}}
+	for _, n := range anyNumbers() {
+		calls = append(calls, namedCall{"PortKind", func() []any { kind, code := impl.PortKind(n); return []any{kind, code} }})
+	}
+	for _, p := range list {
+		calls = append(calls, namedCall{"PortsOK", func() []any { return []any{impl.PortsOK(p)} }})
+		for i, n := range unitNumbers() {
+			on := i%2 == 0
+			calls = append(calls,
+				namedCall{"ReadKeys", func() []any { v, code := impl.ReadKeys(p, n, on); return []any{v, code} }},
+				namedCall{"WriteUla", func() []any { x, code := impl.WriteUla(p, n); return []any{x, code} }},
+				namedCall{"PressKey", func() []any { x, code := impl.PressKey(p, n, 2, on); return []any{x, code} }},
+				namedCall{"PressKey", func() []any { x, code := impl.PressKey(p, 5, n, on); return []any{x, code} }},
+				namedCall{"PressKey", func() []any { x, code := impl.PressKey(p, n, n, on); return []any{x, code} }})
+		}
+	}
+	return calls
+}
+
 func anyMemories() []impl.Memory {
 	list := settings()
 	for _, w := range wrongMemories() {
@@ -204,8 +234,8 @@ func anyMemories() []impl.Memory {
 
 // Each call is made twice, the second time in the other order, so that all calls lie between the first two, and other ones ahead of each.
 func TestPromise1(t *testing.T) {
-	memories := anyMemories()
-	calls := slices.Concat(codeCalls(), textCalls(), cursorCalls(), unitCalls(), frameCalls(), memoryCalls(memories), instrCalls(), cpuCalls(memories))
+	memories, ports := anyMemories(), anyPorts()
+	calls := slices.Concat(codeCalls(), textCalls(), cursorCalls(), unitCalls(), frameCalls(), memoryCalls(memories), instrCalls(), cpuCalls(memories), portCalls(ports))
 	first := make([][]any, len(calls))
 	for i, c := range calls {
 		answers, panicked := caught(c.call)
@@ -222,5 +252,8 @@ func TestPromise1(t *testing.T) {
 	}
 	if !reflect.DeepEqual(memories, anyMemories()) {
 		t.Fatal("a memory that was handed in is changed")
+	}
+	if !slices.Equal(ports, anyPorts()) {
+		t.Fatal("ports that were handed in are changed")
 	}
 }
