@@ -224,6 +224,33 @@ func portCalls(list []impl.Ports) []namedCall {
 	return calls
 }
 
+// anyPsgs are right ones in mixed states, and wrong ones.
+func anyPsgs() []impl.Psg {
+	list := []impl.Psg{impl.NewPsg(), {}, fullPsg(), unlikePsg()}
+	l := lot(14)
+	for range 30 {
+		list = append(list, l.somePsg())
+	}
+	return append(list, psgsBeyond()...)
+}
+
+func psgCalls(list []impl.Psg) []namedCall {
+	calls := []namedCall{{"NewPsg", func() []any { return []any{impl.NewPsg()} }}}
+	for _, p := range list {
+		calls = append(calls,
+			namedCall{"PsgOK", func() []any { return []any{impl.PsgOK(p)} }},
+			namedCall{"ReadReg", func() []any { v, code := impl.ReadReg(p); return []any{v, code} }},
+			namedCall{"LevelOf", func() []any { v, code := impl.LevelOf(p); return []any{v, code} }})
+		for _, n := range append(unitNumbers(), 999, 1000, 1001) {
+			calls = append(calls,
+				namedCall{"SelectReg", func() []any { x, code := impl.SelectReg(p, n); return []any{x, code} }},
+				namedCall{"WriteReg", func() []any { x, code := impl.WriteReg(p, n); return []any{x, code} }},
+				namedCall{"StepPsg", func() []any { x, code := impl.StepPsg(p, n); return []any{x, code} }})
+		}
+	}
+	return calls
+}
+
 func anyMemories() []impl.Memory {
 	list := settings()
 	for _, w := range wrongMemories() {
@@ -234,8 +261,8 @@ func anyMemories() []impl.Memory {
 
 // Each call is made twice, the second time in the other order, so that all calls lie between the first two, and other ones ahead of each.
 func TestPromise1(t *testing.T) {
-	memories, ports := anyMemories(), anyPorts()
-	calls := slices.Concat(codeCalls(), textCalls(), cursorCalls(), unitCalls(), frameCalls(), memoryCalls(memories), instrCalls(), cpuCalls(memories), portCalls(ports))
+	memories, ports, psgs := anyMemories(), anyPorts(), anyPsgs()
+	calls := slices.Concat(codeCalls(), textCalls(), cursorCalls(), unitCalls(), frameCalls(), memoryCalls(memories), instrCalls(), cpuCalls(memories), portCalls(ports), psgCalls(psgs))
 	first := make([][]any, len(calls))
 	for i, c := range calls {
 		answers, panicked := caught(c.call)
@@ -255,5 +282,8 @@ func TestPromise1(t *testing.T) {
 	}
 	if !slices.Equal(ports, anyPorts()) {
 		t.Fatal("ports that were handed in are changed")
+	}
+	if !slices.Equal(psgs, anyPsgs()) {
+		t.Fatal("a sound chip that was handed in is changed")
 	}
 }
