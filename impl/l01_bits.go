@@ -49,6 +49,11 @@ func takeCode(err error) int {
 	return ErrBad
 }
 
+// wordOf is of two bytes.
+func wordOf(t string) int {
+	return int(t[0]) + 256*int(t[1])
+}
+
 func isByte(v int) bool {
 	return v >= 0 && v <= 255
 }
@@ -70,7 +75,7 @@ func TakeWord(c Cursor) (Cursor, int, int) {
 	if err != nil {
 		return next, 0, takeCode(err)
 	}
-	return next, int(t[0]) + 256*int(t[1]), OK
+	return next, wordOf(t), OK
 }
 
 func TakeBytes(c Cursor, n int) (Cursor, string, int) {

@@ -251,6 +251,49 @@ func psgCalls(list []impl.Psg) []namedCall {
 	return calls
 }
 
+// anyTapes are right ones, ones with a wrong block, and ones that are too long.
+func anyTapes() [][]impl.Block {
+	list := [][]impl.Block{nil, make([]impl.Block, impl.MaxList), make([]impl.Block, impl.MaxList+1)}
+	l := lot(15)
+	for n := range impl.MaxBlocks + 3 {
+		for range 10 {
+			list = append(list, l.someTape(n))
+		}
+	}
+	for i, wrong := range wrongBlocks() {
+		tape := l.someTape(impl.MaxBlocks)
+		tape[i%len(tape)] = wrong
+		list = append(list, tape)
+	}
+	return list
+}
+
+func tapeCalls(tapes [][]impl.Block) []namedCall {
+	var calls []namedCall
+	texts := anyTexts()
+	for _, faulty := range faultyBlocks() {
+		texts = append(texts, faulty.s, textWritten(tapeOf(3)...)+faulty.s)
+	}
+	for _, list := range tapes {
+		calls = append(calls, namedCall{"TapText", func() []any { s, code := impl.TapText(list); return []any{s, code} }})
+		texts = append(texts, textWritten(list[:min(len(list), 9)]...))
+		for _, b := range list[:min(len(list), 9)] {
+			calls = append(calls,
+				namedCall{"BlockOK", func() []any { return []any{impl.BlockOK(b)} }},
+				namedCall{"SumOf", func() []any { v, code := impl.SumOf(b); return []any{v, code} }},
+				namedCall{"BlockText", func() []any { s, code := impl.BlockText(b); return []any{s, code} }})
+		}
+	}
+	for _, s := range texts {
+		calls = append(calls, namedCall{"ReadTap", func() []any { list, code := impl.ReadTap(s); return []any{list, code} }})
+		for _, i := range append(unitNumbers(), len(s)-1, len(s), len(s)+1) {
+			c := impl.Cursor{Data: s, At: i}
+			calls = append(calls, namedCall{"TakeBlock", func() []any { x, b, code := impl.TakeBlock(c); return []any{x, b, code} }})
+		}
+	}
+	return calls
+}
+
 func anyMemories() []impl.Memory {
 	list := settings()
 	for _, w := range wrongMemories() {
@@ -261,8 +304,8 @@ func anyMemories() []impl.Memory {
 
 // Each call is made twice, the second time in the other order, so that all calls lie between the first two, and other ones ahead of each.
 func TestPromise1(t *testing.T) {
-	memories, ports, psgs := anyMemories(), anyPorts(), anyPsgs()
-	calls := slices.Concat(codeCalls(), textCalls(), cursorCalls(), unitCalls(), frameCalls(), memoryCalls(memories), instrCalls(), cpuCalls(memories), portCalls(ports), psgCalls(psgs))
+	memories, ports, psgs, tapes := anyMemories(), anyPorts(), anyPsgs(), anyTapes()
+	calls := slices.Concat(codeCalls(), textCalls(), cursorCalls(), unitCalls(), frameCalls(), memoryCalls(memories), instrCalls(), cpuCalls(memories), portCalls(ports), psgCalls(psgs), tapeCalls(tapes))
 	first := make([][]any, len(calls))
 	for i, c := range calls {
 		answers, panicked := caught(c.call)
@@ -285,5 +328,8 @@ func TestPromise1(t *testing.T) {
 	}
 	if !slices.Equal(psgs, anyPsgs()) {
 		t.Fatal("a sound chip that was handed in is changed")
+	}
+	if !reflect.DeepEqual(tapes, anyTapes()) {
+		t.Fatal("a list of blocks that was handed in is changed")
 	}
 }
