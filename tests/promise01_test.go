@@ -294,6 +294,39 @@ func tapeCalls(tapes [][]impl.Block) []namedCall {
 	return calls
 }
 
+// anyPulses are right ones, spoilt ones, and ones that are too long.
+func anyPulses() [][]int {
+	lists := somePulses()
+	l := lot(16)
+	for range 100 {
+		lists = append(lists, l.spoiltPulses())
+	}
+	for _, n := range anyNumbers() {
+		lists = append(lists, []int{n}, slices.Repeat([]int{n}, 8), append(signal(8, "\x01\x01"), n))
+	}
+	return lists
+}
+
+func pulseCalls(tapes [][]impl.Block, lists [][]int) []namedCall {
+	var calls []namedCall
+	for _, s := range append(anyTexts(), longText(400), longText(401)) {
+		calls = append(calls, namedCall{"BitsOf", func() []any { bits, code := impl.BitsOf(s); return []any{bits, code} }})
+	}
+	for _, list := range tapes {
+		calls = append(calls, namedCall{"TapePulses", func() []any { pulses, code := impl.TapePulses(list); return []any{pulses, code} }})
+		for _, b := range list[:min(len(list), 9)] {
+			calls = append(calls, namedCall{"PulsesOf", func() []any { pulses, code := impl.PulsesOf(b); return []any{pulses, code} }})
+		}
+	}
+	for _, list := range lists {
+		calls = append(calls,
+			namedCall{"ByteOf", func() []any { v, code := impl.ByteOf(list); return []any{v, code} }},
+			namedCall{"LengthOfTape", func() []any { n, code := impl.LengthOfTape(list); return []any{n, code} }},
+			namedCall{"DecodePulses", func() []any { blocks, code := impl.DecodePulses(list); return []any{blocks, code} }})
+	}
+	return calls
+}
+
 func anyMemories() []impl.Memory {
 	list := settings()
 	for _, w := range wrongMemories() {
@@ -304,8 +337,8 @@ func anyMemories() []impl.Memory {
 
 // Each call is made twice, the second time in the other order, so that all calls lie between the first two, and other ones ahead of each.
 func TestPromise1(t *testing.T) {
-	memories, ports, psgs, tapes := anyMemories(), anyPorts(), anyPsgs(), anyTapes()
-	calls := slices.Concat(codeCalls(), textCalls(), cursorCalls(), unitCalls(), frameCalls(), memoryCalls(memories), instrCalls(), cpuCalls(memories), portCalls(ports), psgCalls(psgs), tapeCalls(tapes))
+	memories, ports, psgs, tapes, pulses := anyMemories(), anyPorts(), anyPsgs(), anyTapes(), anyPulses()
+	calls := slices.Concat(codeCalls(), textCalls(), cursorCalls(), unitCalls(), frameCalls(), memoryCalls(memories), instrCalls(), cpuCalls(memories), portCalls(ports), psgCalls(psgs), tapeCalls(tapes), pulseCalls(tapes, pulses))
 	first := make([][]any, len(calls))
 	for i, c := range calls {
 		answers, panicked := caught(c.call)
@@ -331,5 +364,8 @@ func TestPromise1(t *testing.T) {
 	}
 	if !reflect.DeepEqual(tapes, anyTapes()) {
 		t.Fatal("a list of blocks that was handed in is changed")
+	}
+	if !reflect.DeepEqual(pulses, anyPulses()) {
+		t.Fatal("a list of pulses that was handed in is changed")
 	}
 }
