@@ -327,6 +327,37 @@ func pulseCalls(tapes [][]impl.Block, lists [][]int) []namedCall {
 	return calls
 }
 
+// anyDecks are right ones in mixed states, and wrong ones.
+func anyDecks() []impl.Deck {
+	list := rightDecks()
+	for _, w := range wrongDecks() {
+		list = append(list, w.d)
+	}
+	return list
+}
+
+func deckCalls(tapes [][]impl.Block, list []impl.Deck) []namedCall {
+	var calls []namedCall
+	for _, tape := range tapes {
+		calls = append(calls, namedCall{"NewDeck", func() []any { d, code := impl.NewDeck(tape); return []any{d, code} }})
+	}
+	for i, d := range list {
+		other := list[(i+1)%len(list)]
+		calls = append(calls,
+			namedCall{"DeckOK", func() []any { return []any{impl.DeckOK(d)} }},
+			namedCall{"PlayDeck", func() []any { x, code := impl.PlayDeck(d); return []any{x, code} }},
+			namedCall{"StopDeck", func() []any { x, code := impl.StopDeck(d); return []any{x, code} }},
+			namedCall{"RewindDeck", func() []any { x, code := impl.RewindDeck(d); return []any{x, code} }},
+			namedCall{"SameDeck", func() []any {
+				return []any{impl.SameDeck(d, d), impl.SameDeck(d, other), impl.SameDeck(other, d)}
+			}})
+		for _, n := range []int{math.MinInt, -1, 0, 1, 5, 1000, mostRun, mostRun + 1, math.MaxInt} {
+			calls = append(calls, namedCall{"RunDeck", func() []any { x, edges, code := impl.RunDeck(d, n); return []any{x, edges, code} }})
+		}
+	}
+	return calls
+}
+
 func anyMemories() []impl.Memory {
 	list := settings()
 	for _, w := range wrongMemories() {
@@ -338,7 +369,8 @@ func anyMemories() []impl.Memory {
 // Each call is made twice, the second time in the other order, so that all calls lie between the first two, and other ones ahead of each.
 func TestPromise1(t *testing.T) {
 	memories, ports, psgs, tapes, pulses := anyMemories(), anyPorts(), anyPsgs(), anyTapes(), anyPulses()
-	calls := slices.Concat(codeCalls(), textCalls(), cursorCalls(), unitCalls(), frameCalls(), memoryCalls(memories), instrCalls(), cpuCalls(memories), portCalls(ports), psgCalls(psgs), tapeCalls(tapes), pulseCalls(tapes, pulses))
+	decks := anyDecks()
+	calls := slices.Concat(codeCalls(), textCalls(), cursorCalls(), unitCalls(), frameCalls(), memoryCalls(memories), instrCalls(), cpuCalls(memories), portCalls(ports), psgCalls(psgs), tapeCalls(tapes), pulseCalls(tapes, pulses), deckCalls(tapes, decks))
 	first := make([][]any, len(calls))
 	for i, c := range calls {
 		answers, panicked := caught(c.call)
@@ -367,5 +399,8 @@ func TestPromise1(t *testing.T) {
 	}
 	if !reflect.DeepEqual(pulses, anyPulses()) {
 		t.Fatal("a list of pulses that was handed in is changed")
+	}
+	if !reflect.DeepEqual(decks, anyDecks()) {
+		t.Fatal("a deck that was handed in is changed")
 	}
 }
