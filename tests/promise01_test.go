@@ -358,6 +358,21 @@ func deckCalls(tapes [][]impl.Block, list []impl.Deck) []namedCall {
 	return calls
 }
 
+func runCalls() []namedCall {
+	var calls []namedCall
+	for _, s := range append(anyTexts(), runTexts()...) {
+		calls = append(calls, namedCall{"Compress", func() []any { x, code := impl.Compress(s); return []any{x, code} }})
+		given, _ := givenBy(s)
+		for _, n := range append(anyNumbers(), len(given)-1, len(given), len(given)+1) {
+			calls = append(calls, namedCall{"Expand", func() []any { x, code := impl.Expand(s, n); return []any{x, code} }})
+		}
+		for _, i := range append(noPlaces(s), 0, 1, len(s)/2, len(s)-1) {
+			calls = append(calls, namedCall{"RunAt", func() []any { n, code := impl.RunAt(s, i); return []any{n, code} }})
+		}
+	}
+	return calls
+}
+
 func anyMemories() []impl.Memory {
 	list := settings()
 	for _, w := range wrongMemories() {
@@ -370,7 +385,7 @@ func anyMemories() []impl.Memory {
 func TestPromise1(t *testing.T) {
 	memories, ports, psgs, tapes, pulses := anyMemories(), anyPorts(), anyPsgs(), anyTapes(), anyPulses()
 	decks := anyDecks()
-	calls := slices.Concat(codeCalls(), textCalls(), cursorCalls(), unitCalls(), frameCalls(), memoryCalls(memories), instrCalls(), cpuCalls(memories), portCalls(ports), psgCalls(psgs), tapeCalls(tapes), pulseCalls(tapes, pulses), deckCalls(tapes, decks))
+	calls := slices.Concat(codeCalls(), textCalls(), cursorCalls(), unitCalls(), frameCalls(), memoryCalls(memories), instrCalls(), cpuCalls(memories), portCalls(ports), psgCalls(psgs), tapeCalls(tapes), pulseCalls(tapes, pulses), deckCalls(tapes, decks), runCalls())
 	first := make([][]any, len(calls))
 	for i, c := range calls {
 		answers, panicked := caught(c.call)
