@@ -373,6 +373,34 @@ func runCalls() []namedCall {
 	return calls
 }
 
+// anySnaps are right ones of all kinds, and wrong ones.
+func anySnaps() []impl.Snap {
+	list := rightSnaps()
+	for _, w := range wrongSnaps() {
+		list = append(list, w.s)
+	}
+	return list
+}
+
+func snapCalls(list []impl.Snap) []namedCall {
+	var calls []namedCall
+	for i, s := range list {
+		other := list[(i+1)%len(list)]
+		calls = append(calls,
+			namedCall{"SnapOK", func() []any { return []any{impl.SnapOK(s)} }},
+			namedCall{"SnapText", func() []any { text, code := impl.SnapText(s); return []any{text, code} }},
+			namedCall{"SameSnap", func() []any {
+				return []any{impl.SameSnap(s, s), impl.SameSnap(s, other), impl.SameSnap(other, s)}
+			}})
+	}
+	for _, text := range append(anyTexts(), snapTexts()...) {
+		for _, rom := range []string{"", longText(63), longText(64), longText(65), longText(impl.MaxText + 1)} {
+			calls = append(calls, namedCall{"ReadSnap", func() []any { s, code := impl.ReadSnap(text, rom); return []any{s, code} }})
+		}
+	}
+	return calls
+}
+
 func anyMemories() []impl.Memory {
 	list := settings()
 	for _, w := range wrongMemories() {
@@ -384,8 +412,8 @@ func anyMemories() []impl.Memory {
 // Each call is made twice, the second time in the other order, so that all calls lie between the first two, and other ones ahead of each.
 func TestPromise1(t *testing.T) {
 	memories, ports, psgs, tapes, pulses := anyMemories(), anyPorts(), anyPsgs(), anyTapes(), anyPulses()
-	decks := anyDecks()
-	calls := slices.Concat(codeCalls(), textCalls(), cursorCalls(), unitCalls(), frameCalls(), memoryCalls(memories), instrCalls(), cpuCalls(memories), portCalls(ports), psgCalls(psgs), tapeCalls(tapes), pulseCalls(tapes, pulses), deckCalls(tapes, decks), runCalls())
+	decks, snaps := anyDecks(), anySnaps()
+	calls := slices.Concat(codeCalls(), textCalls(), cursorCalls(), unitCalls(), frameCalls(), memoryCalls(memories), instrCalls(), cpuCalls(memories), portCalls(ports), psgCalls(psgs), tapeCalls(tapes), pulseCalls(tapes, pulses), deckCalls(tapes, decks), runCalls(), snapCalls(snaps))
 	first := make([][]any, len(calls))
 	for i, c := range calls {
 		answers, panicked := caught(c.call)
@@ -417,5 +445,8 @@ func TestPromise1(t *testing.T) {
 	}
 	if !reflect.DeepEqual(decks, anyDecks()) {
 		t.Fatal("a deck that was handed in is changed")
+	}
+	if !reflect.DeepEqual(snaps, anySnaps()) {
+		t.Fatal("a snapshot that was handed in is changed")
 	}
 }
