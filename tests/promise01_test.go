@@ -401,6 +401,63 @@ func snapCalls(list []impl.Snap) []namedCall {
 	return calls
 }
 
+// anyMachines are right ones of all kinds, and wrong ones.
+func anyMachines() []impl.Machine {
+	list := sharers()
+	for i, m := range rightMachines() {
+		if i%5 == 0 {
+			list = append(list, m)
+		}
+	}
+	for i, w := range wrongMachines() {
+		if i%3 == 0 {
+			list = append(list, w.m)
+		}
+	}
+	return list
+}
+
+func machineCalls(tapes [][]impl.Block, list []impl.Machine) []namedCall {
+	var calls []namedCall
+	acts := append(everyKindOfAct(), wrongActs()...)
+	for i, m := range list {
+		other := list[(i+1)%len(list)]
+		calls = append(calls,
+			namedCall{"MachineOK", func() []any { return []any{impl.MachineOK(m)} }},
+			namedCall{"StepMachine", func() []any { x, code := impl.StepMachine(m); return []any{x, code} }},
+			namedCall{"RunFrame", func() []any { x, code := impl.RunFrame(m); return []any{x, code} }},
+			namedCall{"SameMachine", func() []any {
+				return []any{impl.SameMachine(m, m), impl.SameMachine(m, other), impl.SameMachine(other, m)}
+			}})
+		for k, n := range unitNumbers() {
+			a := acts[(7*i+k)%len(acts)]
+			calls = append(calls,
+				namedCall{"PortValue", func() []any { v, code := impl.PortValue(m, n); return []any{v, code} }},
+				namedCall{"CyclesTime", func() []any {
+					v, code := impl.CyclesTime(m, []impl.Cycle{{Kind: 1, Address: 70}, {Kind: k % 7, Address: n, Value: i}})
+					return []any{v, code}
+				}},
+				namedCall{"ActDo", func() []any { x, code := impl.ActDo(m, a); return []any{x, code} }})
+		}
+	}
+	for _, a := range append(acts, rightActs()...) {
+		calls = append(calls, namedCall{"ActOK", func() []any { return []any{impl.ActOK(a)} }})
+	}
+	for i, tape := range tapes {
+		for _, rom := range []string{"", longText(64), longText(65), longText(impl.MaxText + 1)} {
+			run := acts[i%len(acts) : min(i%len(acts)+i%50, len(acts))]
+			calls = append(calls,
+				namedCall{"NewMachine", func() []any { m, code := impl.NewMachine(rom, tape); return []any{m, code} }},
+				namedCall{"ActsRun", func() []any { m, codes, code := impl.ActsRun(rom, tape, run); return []any{m, codes, code} }},
+				namedCall{"ActsRun", func() []any {
+					m, codes, code := impl.ActsRun(rom, tape, everyKindOfAct()[:9])
+					return []any{m, codes, code}
+				}})
+		}
+	}
+	return calls
+}
+
 func anyMemories() []impl.Memory {
 	list := settings()
 	for _, w := range wrongMemories() {
@@ -412,8 +469,8 @@ func anyMemories() []impl.Memory {
 // Each call is made twice, the second time in the other order, so that all calls lie between the first two, and other ones ahead of each.
 func TestPromise1(t *testing.T) {
 	memories, ports, psgs, tapes, pulses := anyMemories(), anyPorts(), anyPsgs(), anyTapes(), anyPulses()
-	decks, snaps := anyDecks(), anySnaps()
-	calls := slices.Concat(codeCalls(), textCalls(), cursorCalls(), unitCalls(), frameCalls(), memoryCalls(memories), instrCalls(), cpuCalls(memories), portCalls(ports), psgCalls(psgs), tapeCalls(tapes), pulseCalls(tapes, pulses), deckCalls(tapes, decks), runCalls(), snapCalls(snaps))
+	decks, snaps, machines := anyDecks(), anySnaps(), anyMachines()
+	calls := slices.Concat(codeCalls(), textCalls(), cursorCalls(), unitCalls(), frameCalls(), memoryCalls(memories), instrCalls(), cpuCalls(memories), portCalls(ports), psgCalls(psgs), tapeCalls(tapes), pulseCalls(tapes, pulses), deckCalls(tapes, decks), runCalls(), snapCalls(snaps), machineCalls(tapes, machines))
 	first := make([][]any, len(calls))
 	for i, c := range calls {
 		answers, panicked := caught(c.call)
@@ -448,5 +505,8 @@ func TestPromise1(t *testing.T) {
 	}
 	if !reflect.DeepEqual(snaps, anySnaps()) {
 		t.Fatal("a snapshot that was handed in is changed")
+	}
+	if !reflect.DeepEqual(machines, anyMachines()) {
+		t.Fatal("a machine that was handed in is changed")
 	}
 }
