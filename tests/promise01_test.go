@@ -458,6 +458,63 @@ func machineCalls(tapes [][]impl.Block, list []impl.Machine) []namedCall {
 	return calls
 }
 
+// anyActTexts are those of acts, and spoilt ones.
+func anyActTexts() []string {
+	list := anyTexts()
+	for _, a := range rightActs() {
+		s := actTextWritten(a)
+		list = append(list, s, " "+s+"  ", s[1:], s+"x", s+" 1", times(impl.MaxText, " ")+s)
+	}
+	return list
+}
+
+// anyCodes are lists of bytes, of numbers that are none, and ones that are too long.
+func anyCodes() [][]int {
+	var lists [][]int
+	l := lot(17)
+	for _, n := range []int{0, 1, 2, 3, 64, 255, 256, 257, impl.MaxList, impl.MaxList + 1} {
+		for i := range 20 {
+			bytes := l.someCode(n)
+			if n > 0 && i%3 == 0 {
+				bytes[l.below(n)] = unitNumbers()[i%len(unitNumbers())]
+			}
+			lists = append(lists, bytes)
+		}
+	}
+	return lists
+}
+
+func lineCalls(machines []impl.Machine, codes [][]int) []namedCall {
+	var calls []namedCall
+	var events []impl.Event
+	for _, m := range machines {
+		calls = append(calls,
+			namedCall{"MachineLines", func() []any { list, code := impl.MachineLines(m); return []any{list, code} }},
+			namedCall{"ScreenLines", func() []any { list, code := impl.ScreenLines(m); return []any{list, code} }},
+			namedCall{"CpuText", func() []any { s, code := impl.CpuText(m.Cpu); return []any{s, code} }})
+		events = append(events, m.Events[:min(len(m.Events), 9)]...)
+	}
+	for _, n := range unitNumbers() {
+		events = append(events, event(n, 1, 1), event(1, n, 1), event(1, 1, n), event(n, n, n))
+	}
+	for _, c := range anyCpus() {
+		calls = append(calls, namedCall{"CpuText", func() []any { s, code := impl.CpuText(c); return []any{s, code} }})
+	}
+	for _, e := range events {
+		calls = append(calls, namedCall{"EventText", func() []any { s, code := impl.EventText(e); return []any{s, code} }})
+	}
+	for _, a := range append(rightActs(), wrongActs()...) {
+		calls = append(calls, namedCall{"ActText", func() []any { s, code := impl.ActText(a); return []any{s, code} }})
+	}
+	for _, s := range anyActTexts() {
+		calls = append(calls, namedCall{"ReadAct", func() []any { a, code := impl.ReadAct(s); return []any{a, code} }})
+	}
+	for _, bytes := range codes {
+		calls = append(calls, namedCall{"ListCode", func() []any { list, code := impl.ListCode(bytes); return []any{list, code} }})
+	}
+	return calls
+}
+
 func anyMemories() []impl.Memory {
 	list := settings()
 	for _, w := range wrongMemories() {
@@ -469,8 +526,8 @@ func anyMemories() []impl.Memory {
 // Each call is made twice, the second time in the other order, so that all calls lie between the first two, and other ones ahead of each.
 func TestPromise1(t *testing.T) {
 	memories, ports, psgs, tapes, pulses := anyMemories(), anyPorts(), anyPsgs(), anyTapes(), anyPulses()
-	decks, snaps, machines := anyDecks(), anySnaps(), anyMachines()
-	calls := slices.Concat(codeCalls(), textCalls(), cursorCalls(), unitCalls(), frameCalls(), memoryCalls(memories), instrCalls(), cpuCalls(memories), portCalls(ports), psgCalls(psgs), tapeCalls(tapes), pulseCalls(tapes, pulses), deckCalls(tapes, decks), runCalls(), snapCalls(snaps), machineCalls(tapes, machines))
+	decks, snaps, machines, codes := anyDecks(), anySnaps(), anyMachines(), anyCodes()
+	calls := slices.Concat(codeCalls(), textCalls(), cursorCalls(), unitCalls(), frameCalls(), memoryCalls(memories), instrCalls(), cpuCalls(memories), portCalls(ports), psgCalls(psgs), tapeCalls(tapes), pulseCalls(tapes, pulses), deckCalls(tapes, decks), runCalls(), snapCalls(snaps), machineCalls(tapes, machines), lineCalls(machines, codes))
 	first := make([][]any, len(calls))
 	for i, c := range calls {
 		answers, panicked := caught(c.call)
@@ -508,5 +565,8 @@ func TestPromise1(t *testing.T) {
 	}
 	if !reflect.DeepEqual(machines, anyMachines()) {
 		t.Fatal("a machine that was handed in is changed")
+	}
+	if !reflect.DeepEqual(codes, anyCodes()) {
+		t.Fatal("a list of code that was handed in is changed")
 	}
 }

@@ -2,6 +2,8 @@ package tests
 
 import (
 	"fmt"
+	"strconv"
+	"strings"
 	"testing"
 
 	"loop.example/g00644/impl"
@@ -29,6 +31,7 @@ func checkFrameTime(t *testing.T, how string, m impl.Machine) impl.Machine {
 		t.Fatal(how, "RunFrame is", code, "at", x.Frames, x.T)
 	}
 	checkInterrupts(t, how, x.Events)
+	checkToldInterrupts(t, how, x.Events)
 	return x
 }
 
@@ -46,6 +49,77 @@ func checkInterrupts(t *testing.T, how string, list []impl.Event) {
 	}
 	if taken > 1 {
 		t.Fatal(how, "interrupts are taken", taken, "times:", list)
+	}
+}
+
+// checkToldInterrupts asks the same of the events' texts: at most one has the word int, and its T is in the window.
+func checkToldInterrupts(t *testing.T, how string, list []impl.Event) int {
+	t.Helper()
+	taken := 0
+	for _, e := range list {
+		text, code := impl.EventText(e)
+		words := strings.Split(text, " ")
+		if code != impl.OK || len(words) != 3 {
+			t.Fatal(how, "the text of", e, "is", text, code)
+		}
+		if words[1] != "int" {
+			continue
+		}
+		taken++
+		if at, err := strconv.Atoi(words[0]); err != nil || at < 0 || at > 7 || taken > 1 {
+			t.Fatalf("%s an interrupt is told by %q, as number %d", how, text, taken)
+		}
+	}
+	return taken
+}
+
+// All frames of all programs, from all their starts, and of machines of all kinds: what is told of them has at most one interrupt a frame. Some let them in each frame, and there it is told.
+func TestPromise15ToldByTexts(t *testing.T) {
+	taken := map[string]int{}
+	run := func(how string, m impl.Machine, frames int) {
+		m.Frames = min(m.Frames, 1000)
+		for range frames {
+			var code int
+			if m, code = impl.RunFrame(m); code != impl.OK {
+				t.Fatal(how, "RunFrame is", code)
+			}
+			taken[how] += checkToldInterrupts(t, how, m.Events)
+		}
+	}
+	eachStart(func(name string, m impl.Machine) { run(name, m, 40) })
+	for _, m := range rightMachines() {
+		run("a right one", m, 4)
+	}
+	l := lot(1503)
+	for range 300 {
+		run("a mixed one", l.someMachine(), 6)
+	}
+	for name, least := range map[string]int{"counts in the border, fresh": 39, "halted with interrupts, fresh": 39, "an interrupt that stays off, busy": 1, "a mixed one": 50} {
+		if taken[name] < least {
+			t.Error("of", name, "are told", taken[name], "interrupts")
+		}
+	}
+	if n := taken["noughts, fresh"] + taken["stripes, fresh"] + taken["di ahead of the window, fresh"]; n != 0 {
+		t.Error("where none is let there are told", n, "interrupts")
+	}
+}
+
+// An interrupt that is let is told, in each T of the window and in no other one, with where it came.
+func TestPromise15ToldOfTheWindow(t *testing.T) {
+	for at := range 640 {
+		m := newMachine(times(64, "\x00"))
+		m.T, m.Cpu.Iff, m.Cpu.Pc = at, true, 50
+		x, _ := impl.RunFrame(m)
+		if at >= 8 {
+			if n := checkToldInterrupts(t, "outside", x.Events); n != 0 {
+				t.Error("at", at, "there are told", n, "interrupts")
+			}
+			continue
+		}
+		want := strconv.Itoa(at) + " int 50"
+		if text, code := impl.EventText(x.Events[0]); text != want || code != impl.OK || len(x.Events) != 1 {
+			t.Errorf("at %d is told %q of %d, not %q", at, text, len(x.Events), want)
+		}
 	}
 }
 
