@@ -122,18 +122,27 @@ func BytesOf(t string) (string, int) {
 	if len(t) > MaxText {
 		return "", ErrLong
 	}
-	if len(t)%2 != 0 {
+	bytes, whole := hexBytes(t)
+	if !whole {
 		return "", ErrForm
+	}
+	return bytes, OK
+}
+
+// hexBytes asks nothing of how long a text is: a console's lines are not bounded as the texts of calls are.
+func hexBytes(t string) (string, bool) {
+	if len(t)%2 != 0 {
+		return "", false
 	}
 	out := make([]byte, 0, len(t)/2)
 	for i := 0; i < len(t); i += 2 {
 		high, low := hexValue(t[i]), hexValue(t[i+1])
 		if high < 0 || low < 0 {
-			return "", ErrForm
+			return "", false
 		}
 		out = append(out, byte(16*high+low))
 	}
-	return string(out), OK
+	return string(out), true
 }
 
 // hexValue knows small letters alone, as HexOf writes no others; -1 says that b is no digit.

@@ -515,6 +515,28 @@ func lineCalls(machines []impl.Machine, codes [][]int) []namedCall {
 	return calls
 }
 
+// anyScripts are lists of lines of which most are none.
+func anyScripts() [][]string {
+	list := append(manyScripts(), anyTexts(), make([]string, impl.MaxLines), make([]string, 2*impl.MaxList))
+	for _, s := range slices.Concat(anyTexts(), wrongLines(), spoilt("7")) {
+		list = append(list, []string{s}, []string{"tape " + s}, []string{"peek " + s, "poke 70 " + s, "poke " + s + " 70"}, []string{s, "play", "load", s, "machine"})
+	}
+	return list
+}
+
+func consoleCalls(scripts [][]string) []namedCall {
+	calls := []namedCall{{"PlainRom", func() []any { return []any{impl.PlainRom()} }}}
+	for _, lines := range scripts {
+		calls = append(calls,
+			namedCall{"RunLines", func() []any { m, said, code := impl.RunLines(lines); return []any{m, said, code} }},
+			namedCall{"Console", func() []any { s, code := impl.Console(asText(lines)); return []any{s, code} }})
+	}
+	for _, s := range anyTexts() {
+		calls = append(calls, namedCall{"Console", func() []any { said, code := impl.Console(s); return []any{said, code} }})
+	}
+	return calls
+}
+
 func anyMemories() []impl.Memory {
 	list := settings()
 	for _, w := range wrongMemories() {
@@ -526,8 +548,8 @@ func anyMemories() []impl.Memory {
 // Each call is made twice, the second time in the other order, so that all calls lie between the first two, and other ones ahead of each.
 func TestPromise1(t *testing.T) {
 	memories, ports, psgs, tapes, pulses := anyMemories(), anyPorts(), anyPsgs(), anyTapes(), anyPulses()
-	decks, snaps, machines, codes := anyDecks(), anySnaps(), anyMachines(), anyCodes()
-	calls := slices.Concat(codeCalls(), textCalls(), cursorCalls(), unitCalls(), frameCalls(), memoryCalls(memories), instrCalls(), cpuCalls(memories), portCalls(ports), psgCalls(psgs), tapeCalls(tapes), pulseCalls(tapes, pulses), deckCalls(tapes, decks), runCalls(), snapCalls(snaps), machineCalls(tapes, machines), lineCalls(machines, codes))
+	decks, snaps, machines, codes, scripts := anyDecks(), anySnaps(), anyMachines(), anyCodes(), anyScripts()
+	calls := slices.Concat(codeCalls(), textCalls(), cursorCalls(), unitCalls(), frameCalls(), memoryCalls(memories), instrCalls(), cpuCalls(memories), portCalls(ports), psgCalls(psgs), tapeCalls(tapes), pulseCalls(tapes, pulses), deckCalls(tapes, decks), runCalls(), snapCalls(snaps), machineCalls(tapes, machines), lineCalls(machines, codes), consoleCalls(scripts))
 	first := make([][]any, len(calls))
 	for i, c := range calls {
 		answers, panicked := caught(c.call)
@@ -568,5 +590,8 @@ func TestPromise1(t *testing.T) {
 	}
 	if !reflect.DeepEqual(codes, anyCodes()) {
 		t.Fatal("a list of code that was handed in is changed")
+	}
+	if !reflect.DeepEqual(scripts, anyScripts()) {
+		t.Fatal("a list of lines that was handed in is changed")
 	}
 }
